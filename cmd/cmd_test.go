@@ -12,6 +12,7 @@ import (
 	"testing"
 
 	"handsel/api"
+	"handsel/fixture"
 	"handsel/graph"
 	"handsel/hashkey"
 	"handsel/spec"
@@ -40,34 +41,8 @@ func swap() api.Spec {
 	}
 }
 
-// greatSwap has as much of everything as a swap may have.
-func greatSwap() api.Spec {
-	s := api.Spec{ID: of('i', 16), Leaders: []int{5, 0, 3}, Start: 1 << 40, Delta: 1 << 20}
-	for i := range 3 {
-		s.Locks = append(s.Locks, of(byte(i), 32))
-	}
-	for i := range 6 {
-		key := of(byte(255-i), 16)
-		s.Parties = append(s.Parties, api.Party{Account: of(byte('p'+i), 16), Keys: []string{key, key, key}})
-	}
-	for i := range 12 {
-		s.Arcs = append(s.Arcs, api.Arc{From: i % 6, To: (i + 1 + i/6) % 6, Ledger: 3, Asset: of('x', 16), Amount: 1 << 50})
-	}
-	return s
-}
-
 func key() api.Hashkey {
 	return api.Hashkey{Lock: 1, Secret: "open", Path: []int{1, 2}, Sigs: []string{of('s', 512), of('t', 512)}}
-}
-
-// greatKey has as much of everything as a key may have.
-func greatKey() api.Hashkey {
-	k := api.Hashkey{Lock: 2, Secret: of('s', 64)}
-	for i := range 6 {
-		k.Path = append(k.Path, 5-i)
-		k.Sigs = append(k.Sigs, of(byte(250+i), 512))
-	}
-	return k
 }
 
 // each is a command of each Kind, with just what it has.
@@ -90,8 +65,8 @@ func greatest() []api.Cmd {
 	return []api.Cmd{
 		{Kind: 1, Who: name},
 		{Kind: 2, Who: name, Whom: name, Asset: name, Amount: 1 << 50},
-		{Kind: 3, Who: name, Spec: greatSwap(), Arc: 11},
-		{Kind: 4, Who: name, Swap: name, Arc: 11, Key: greatKey()},
+		{Kind: 3, Who: name, Spec: fixture.GreatSwap(), Arc: 11},
+		{Kind: 4, Who: name, Swap: name, Arc: 11, Key: fixture.GreatKey()},
 		{Kind: 5, Who: name, Swap: name, Arc: 11},
 		{Kind: 6, Who: name, Swap: name, Arc: 11},
 		{Kind: 7, Who: name, Asset: name},
@@ -383,9 +358,9 @@ func otherParts() map[string][]any {
 	parts := map[string][]any{
 		"Amount": {1, 9, -1, 1 << 50, math.MaxInt, math.MinInt},
 		"Arc":    {1, 9, 11, 12, -1, math.MaxInt, math.MinInt},
-		"Spec": {swap(), greatSwap(), api.Spec{ID: "x"}, api.Spec{Parties: make([]api.Party, 1)}, api.Spec{Arcs: make([]api.Arc, 1)},
+		"Spec": {swap(), fixture.GreatSwap(), api.Spec{ID: "x"}, api.Spec{Parties: make([]api.Party, 1)}, api.Spec{Arcs: make([]api.Arc, 1)},
 			api.Spec{Leaders: make([]int, 1)}, api.Spec{Locks: make([]string, 1)}, api.Spec{Start: 1}, api.Spec{Start: -1}, api.Spec{Delta: 1}, api.Spec{Delta: -1}},
-		"Key": {key(), greatKey(), api.Hashkey{Lock: 1}, api.Hashkey{Lock: -1}, api.Hashkey{Secret: "x"},
+		"Key": {key(), fixture.GreatKey(), api.Hashkey{Lock: 1}, api.Hashkey{Lock: -1}, api.Hashkey{Secret: "x"},
 			api.Hashkey{Path: make([]int, 1)}, api.Hashkey{Sigs: make([]string, 1)}},
 	}
 	for _, field := range names() {

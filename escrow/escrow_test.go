@@ -7,93 +7,12 @@ import (
 	"math/rand"
 	"reflect"
 	"slices"
-	"strings"
 	"testing"
 
 	"handsel/api"
 	"handsel/bank"
-	"handsel/hashkey"
-	"handsel/ots"
-	"handsel/sha"
+	"handsel/fixture"
 )
-
-func of(b byte, size int) string { return strings.Repeat(string([]byte{b}), size) }
-
-func fund(account, asset string, amount int) api.Fund {
-	return api.Fund{Account: account, Asset: asset, Amount: amount}
-}
-
-// The seed of a party's keys is its account's name, the secret of a lock "open" and its number.
-func secret(lock int) string { return "open" + string(rune('0'+lock)) }
-
-// swap is one of these accounts, arcs and leaders; it begins at 11, and a step is 13.
-func swap(id string, accounts []string, arcs []api.Arc, leaders ...int) api.Spec {
-	s := api.Spec{ID: id, Arcs: arcs, Leaders: leaders, Start: 11, Delta: 13}
-	for lock := range leaders {
-		s.Locks = append(s.Locks, sha.Sum(secret(lock)))
-	}
-	for _, account := range accounts {
-		p := api.Party{Account: account}
-		for lock := range leaders {
-			p.Keys = append(p.Keys, ots.Public(account, lock))
-		}
-		s.Parties = append(s.Parties, p)
-	}
-	return s
-}
-
-// three is a swap of three parties, two of which lead; its last arc is of another ledger.
-// Till 50 its arcs may be held; keys open till 50, 63, 76, by how many parties their paths have.
-func three() api.Spec {
-	return swap("three", []string{"ann", "bob", "cy"}, []api.Arc{
-		{From: 0, To: 1, Ledger: 1, Asset: "gold", Amount: 3},
-		{From: 1, To: 2, Ledger: 1, Asset: "salt", Amount: 5},
-		{From: 2, To: 0, Ledger: 1, Asset: "wool", Amount: 7},
-		{From: 1, To: 0, Ledger: 2, Asset: "gold", Amount: 4},
-	}, 0, 2)
-}
-
-// pair is a swap of two parties, one of which leads; its first arc has amount and asset as asked.
-// Till 37 its arcs may be held; keys open till 37 and 50.
-func pair(id, from, to, asset string, amount int) api.Spec {
-	return swap(id, []string{from, to}, []api.Arc{
-		{From: 0, To: 1, Ledger: 1, Asset: asset, Amount: amount},
-		{From: 1, To: 0, Ledger: 1, Asset: "salt", Amount: 1},
-	}, 1)
-}
-
-// key opens a lock by a path, which ends with the lock's leader.
-func key(s api.Spec, lock int, path ...int) api.Hashkey {
-	last := len(path) - 1
-	k := hashkey.Make(s, lock, secret(lock), s.Parties[path[last]].Account)
-	for _, v := range slices.Backward(path[:last]) {
-		k = hashkey.Extend(s, k, v, s.Parties[v].Account)
-	}
-	return k
-}
-
-func accounts() []string { return []string{"dee", "cy", "bob", "ann", "eve"} }
-
-// market is a book of ledger 1: five accounts, opened out of order, that have three assets.
-func market(t *testing.T) api.Book {
-	t.Helper()
-	return stocked(t, accounts(), fund("ann", "gold", 10), fund("bob", "salt", 20), fund("cy", "wool", 7), fund("cy", "gold", 1), fund("dee", "gold", 90), fund("eve", "salt", 4))
-}
-
-// stocked is a book of ledger 1; of accounts that it has not there are no funds.
-func stocked(t *testing.T, accounts []string, funds ...api.Fund) api.Book {
-	t.Helper()
-	b := bank.New(1)
-	for _, account := range accounts {
-		b = ok(t, b, open(account))
-	}
-	for _, f := range funds {
-		if slices.Contains(accounts, f.Account) {
-			b = ok(t, b, give(f.Account, f.Asset, f.Amount))
-		}
-	}
-	return b
-}
 
 // call is one that answers a book, in words and as a function.
 type call struct {
@@ -137,12 +56,6 @@ func ok(t *testing.T, b api.Book, calls ...call) api.Book {
 	return b
 }
 
-// at is the book at another time.
-func at(b api.Book, time int) api.Book {
-	b.Time = time
-	return b
-}
-
 // has is the book with other Funds.
 func has(b api.Book, funds ...api.Fund) api.Book {
 	b.Funds = funds
@@ -159,55 +72,11 @@ func turned(b api.Book, i int, turn func(e *api.Escrow)) api.Book {
 
 func into(state int) func(e *api.Escrow) { return func(e *api.Escrow) { e.State = state } }
 
-// roomy is the same book, with room behind each of its lists: who appends without a copy writes there.
-func roomy(b api.Book) api.Book {
-	b.Accounts = withRoom(b.Accounts, "room")
-	b.Funds = withRoom(b.Funds, fund("room", "room", 1))
-	b.Escrows = withRoom(b.Escrows, api.Escrow{State: 99})
-	for i := range b.Escrows {
-		b.Escrows[i].Keys = withRoom(b.Escrows[i].Keys, api.Hashkey{Lock: 99})
-	}
-	return b
-}
-
-func withRoom[T any](list []T, mark T) []T {
-	return slices.Concat(list, slices.Repeat([]T{mark}, 3))[:len(list)]
-}
-
-// whole is a copy of a list and of the room behind it.
-func whole[T any](list []T) []T { return slices.Clone(list[:cap(list)]) }
-
-// memory is a copy of all that a book's lists reach, the room behind them too.
-func memory(b api.Book) api.Book {
-	b.Accounts, b.Funds, b.Escrows = whole(b.Accounts), whole(b.Funds), whole(b.Escrows)
-	for i := range b.Escrows {
-		b.Escrows[i].Spec = specMemory(b.Escrows[i].Spec)
-		b.Escrows[i].Keys = whole(b.Escrows[i].Keys)
-		for j := range b.Escrows[i].Keys {
-			b.Escrows[i].Keys[j] = keyMemory(b.Escrows[i].Keys[j])
-		}
-	}
-	return b
-}
-
-func specMemory(s api.Spec) api.Spec {
-	s.Parties, s.Arcs, s.Leaders, s.Locks = whole(s.Parties), whole(s.Arcs), whole(s.Leaders), whole(s.Locks)
-	for i := range s.Parties {
-		s.Parties[i].Keys = whole(s.Parties[i].Keys)
-	}
-	return s
-}
-
-func keyMemory(k api.Hashkey) api.Hashkey {
-	k.Path, k.Sigs = whole(k.Path), whole(k.Sigs)
-	return k
-}
-
 // must: the call answers that error and that book, and changes nothing of the book that is handed in.
 func must(t *testing.T, b api.Book, c call, e api.Errno, want api.Book) {
 	t.Helper()
-	b = roomy(b)
-	was := memory(b)
+	b = fixture.Roomy(b)
+	was := fixture.Memory(b)
 	got, err := c.do(b)
 	if err != e {
 		t.Errorf("%s: %d, want %d", c.why, err, e)
@@ -215,7 +84,7 @@ func must(t *testing.T, b api.Book, c call, e api.Errno, want api.Book) {
 	if !bank.Same(got, want) {
 		t.Errorf("%s: the book is %s, want %s", c.why, told(got), told(want))
 	}
-	if !reflect.DeepEqual(memory(b), was) {
+	if !reflect.DeepEqual(fixture.Memory(b), was) {
 		t.Errorf("%s: the book that was handed in is changed", c.why)
 	}
 }
@@ -250,17 +119,17 @@ func mustTotals(t *testing.T, why string, b api.Book, want map[string]int) {
 // heldBook is the market that holds the arcs of three that are on its ledger.
 func heldBook(t *testing.T) api.Book {
 	t.Helper()
-	return ok(t, market(t), hold("ann", three(), 0), hold("bob", three(), 1), hold("cy", three(), 2))
+	return ok(t, fixture.Market(), hold("ann", fixture.Three(), 0), hold("bob", fixture.Three(), 1), hold("cy", fixture.Three(), 2))
 }
 
 // opening are the calls that open both locks of arc 0 of three.
 func opening() []call {
-	return []call{unlock("three", 0, key(three(), 0, 1, 0)), unlock("three", 0, key(three(), 1, 1, 2))}
+	return []call{unlock("three", 0, fixture.Key(fixture.Three(), 0, 1, 0)), unlock("three", 0, fixture.Key(fixture.Three(), 1, 1, 2))}
 }
 
 // P10.1: what is there is found, and nothing else.
 func TestFind(t *testing.T) {
-	b := ok(t, heldBook(t), hold("dee", pair("pair", "dee", "eve", "gold", 8), 0))
+	b := ok(t, heldBook(t), hold("dee", fixture.Pair("pair", "dee", "eve", "gold", 8), 0))
 	for i, x := range []struct {
 		id  string
 		arc int
@@ -273,7 +142,7 @@ func TestFind(t *testing.T) {
 	for _, x := range []struct {
 		id  string
 		arc int
-	}{{"three", 3}, {"three", -1}, {"three", math.MinInt}, {"three", math.MaxInt}, {"pair", 1}, {"pair", 2}, {"", 0}, {"Three", 0}, {"thre", 0}, {"threes", 0}, {of('n', 17), 0}} {
+	}{{"three", 3}, {"three", -1}, {"three", math.MinInt}, {"three", math.MaxInt}, {"pair", 1}, {"pair", 2}, {"", 0}, {"Three", 0}, {"thre", 0}, {"threes", 0}, {fixture.Of('n', 17), 0}} {
 		if e, found := Find(b, x.id, x.arc); found || !reflect.DeepEqual(e, api.Escrow{}) {
 			t.Errorf("%q, %d: %v, %v", x.id, x.arc, found, e)
 		}
@@ -286,7 +155,7 @@ func TestFind(t *testing.T) {
 // P10.1: an escrow that has ended is found still.
 func TestFindEnded(t *testing.T) {
 	b := ok(t, ok(t, heldBook(t), opening()...), redeem("eve", "three", 0))
-	b = ok(t, at(b, 77), refund("bob", "three", 1))
+	b = ok(t, fixture.At(b, 77), refund("bob", "three", 1))
 	for arc, want := range []int{api.Redeemed, api.Refunded, api.Held} {
 		if e, found := Find(b, "three", arc); !found || e.State != want || e.Arc != arc {
 			t.Errorf("arc %d: %v, %d", arc, found, e.State)
@@ -311,7 +180,7 @@ func TestOpened(t *testing.T) {
 	mustBeOpen(t, ok(t, b, calls[1]), 1)
 	mustBeOpen(t, ok(t, b, calls...), 2)
 	mustBeOpen(t, ok(t, ok(t, b, calls...), redeem("ann", "three", 0)), 2)
-	mustBeOpen(t, ok(t, at(ok(t, b, calls[1]), 77), refund("ann", "three", 0)), 1)
+	mustBeOpen(t, ok(t, fixture.At(ok(t, b, calls[1]), 77), refund("ann", "three", 0)), 1)
 	if n := Opened(api.Escrow{}); n != 0 {
 		t.Errorf("of no escrow %d are open", n)
 	}
@@ -329,18 +198,18 @@ func fresh(s api.Spec, arc int) api.Escrow {
 
 // P10.2: the amount goes from the account to an escrow, behind those that there are.
 func TestHold(t *testing.T) {
-	s, b := three(), market(t)
-	want := has(b, fund("ann", "gold", 7), fund("bob", "salt", 20), fund("cy", "gold", 1), fund("cy", "wool", 7), fund("dee", "gold", 90), fund("eve", "salt", 4))
+	s, b := fixture.Three(), fixture.Market()
+	want := has(b, fixture.Fund("ann", "gold", 7), fixture.Fund("bob", "salt", 20), fixture.Fund("cy", "gold", 1), fixture.Fund("cy", "wool", 7), fixture.Fund("dee", "gold", 90), fixture.Fund("eve", "salt", 4))
 	want.Escrows = []api.Escrow{fresh(s, 0)}
 	must(t, b, hold("ann", s, 0), api.OK, want)
 	b = want
 	// All that there is of it: no Fund is left.
-	want = has(b, fund("ann", "gold", 7), fund("bob", "salt", 20), fund("cy", "gold", 1), fund("dee", "gold", 90), fund("eve", "salt", 4))
+	want = has(b, fixture.Fund("ann", "gold", 7), fixture.Fund("bob", "salt", 20), fixture.Fund("cy", "gold", 1), fixture.Fund("dee", "gold", 90), fixture.Fund("eve", "salt", 4))
 	want.Escrows = []api.Escrow{fresh(s, 0), fresh(s, 2)}
 	must(t, b, hold("cy", s, 2), api.OK, want)
 	b = want
-	other := pair("pair", "ann", "cy", "gold", 7)
-	want = has(b, fund("bob", "salt", 20), fund("cy", "gold", 1), fund("dee", "gold", 90), fund("eve", "salt", 4))
+	other := fixture.Pair("pair", "ann", "cy", "gold", 7)
+	want = has(b, fixture.Fund("bob", "salt", 20), fixture.Fund("cy", "gold", 1), fixture.Fund("dee", "gold", 90), fixture.Fund("eve", "salt", 4))
 	want.Escrows = []api.Escrow{fresh(s, 0), fresh(s, 2), fresh(other, 0)}
 	must(t, b, hold("ann", other, 0), api.OK, want)
 	mustTotals(t, "held", want, map[string]int{"gold": 101, "salt": 24, "wool": 7})
@@ -350,10 +219,10 @@ func TestHold(t *testing.T) {
 func TestHoldLedger(t *testing.T) {
 	for number, want := range []api.Errno{api.ErrArg, api.ErrArg, api.OK, api.ErrArg} {
 		b := bank.New(number)
-		for _, account := range accounts() {
+		for _, account := range fixture.Accounts() {
 			b = ok(t, b, open(account), give(account, "gold", 4))
 		}
-		if _, e := Hold(b, "bob", three(), 3); e != want {
+		if _, e := Hold(b, "bob", fixture.Three(), 3); e != want {
 			t.Errorf("on ledger %d: %d, want %d", number, e, want)
 		}
 	}
@@ -361,22 +230,22 @@ func TestHoldLedger(t *testing.T) {
 
 // P10.2: ahead of Start and n times Delta an arc is held, at it and behind it not.
 func TestHoldTime(t *testing.T) {
-	long := three()
+	long := fixture.Three()
 	long.Start, long.Delta = 1<<40, 1<<20
-	early := three()
+	early := fixture.Three()
 	early.Start, early.Delta = 0, 1
 	for _, x := range []struct {
 		s    api.Spec
 		who  string
 		time int
-	}{{three(), "ann", 50}, {pair("pair", "dee", "eve", "gold", 1), "dee", 37}, {long, "ann", 1<<40 + 3<<20}, {early, "ann", 3}} {
+	}{{fixture.Three(), "ann", 50}, {fixture.Pair("pair", "dee", "eve", "gold", 1), "dee", 37}, {long, "ann", 1<<40 + 3<<20}, {early, "ann", 3}} {
 		for _, time := range []int{math.MinInt, -1, 0, x.s.Start, x.time - 2, x.time - 1} {
-			if _, e := Hold(at(market(t), time), x.who, x.s, 0); e != api.OK {
+			if _, e := Hold(fixture.At(fixture.Market(), time), x.who, x.s, 0); e != api.OK {
 				t.Errorf("%s at %d: %d", x.s.ID, time, e)
 			}
 		}
 		for _, time := range []int{x.time, x.time + 1, x.time + 1<<20, math.MaxInt} {
-			mustRefuse(t, at(market(t), time), hold(x.who, x.s, 0), api.ErrLate)
+			mustRefuse(t, fixture.At(fixture.Market(), time), hold(x.who, x.s, 0), api.ErrLate)
 		}
 	}
 }
@@ -402,10 +271,10 @@ func TestHoldSpec(t *testing.T) {
 			}
 		},
 	} {
-		s := three()
+		s := fixture.Three()
 		turn(&s)
 		for arc := -1; arc < 4; arc++ {
-			if got, e := Hold(market(t), "ann", s, arc); e != api.ErrSpec || !bank.Same(got, market(t)) {
+			if got, e := Hold(fixture.Market(), "ann", s, arc); e != api.ErrSpec || !bank.Same(got, fixture.Market()) {
 				t.Errorf("change %d, arc %d: %d", i, arc, e)
 			}
 		}
@@ -414,35 +283,35 @@ func TestHoldSpec(t *testing.T) {
 
 // P10.2: as many escrows as there may be, whatever their state, and one more.
 func TestHoldFull(t *testing.T) {
-	b := market(t)
+	b := fixture.Market()
 	for i := range 12 {
-		b = ok(t, at(b, 0), hold("dee", pair(of('i', i+1), "dee", "eve", "gold", 1), 0))
+		b = ok(t, fixture.At(b, 0), hold("dee", fixture.Pair(fixture.Of('i', i+1), "dee", "eve", "gold", 1), 0))
 		if i%2 == 0 {
-			b = ok(t, at(b, 51), refund("dee", of('i', i+1), 0))
+			b = ok(t, fixture.At(b, 51), refund("dee", fixture.Of('i', i+1), 0))
 		}
 	}
 	if len(b.Escrows) != 12 {
 		t.Fatalf("%d escrows", len(b.Escrows))
 	}
-	mustRefuse(t, at(b, 0), hold("dee", pair("more", "dee", "eve", "gold", 1), 0), api.ErrFull)
-	mustRefuse(t, at(b, 0), hold("ann", three(), 0), api.ErrFull)
+	mustRefuse(t, fixture.At(b, 0), hold("dee", fixture.Pair("more", "dee", "eve", "gold", 1), 0), api.ErrFull)
+	mustRefuse(t, fixture.At(b, 0), hold("ann", fixture.Three(), 0), api.ErrFull)
 	b.Escrows = b.Escrows[:11]
-	ok(t, at(b, 0), hold("ann", three(), 0))
+	ok(t, fixture.At(b, 0), hold("ann", fixture.Three(), 0))
 }
 
 // P10.2: what is held once, and has ended, is not held again.
 func TestHoldAgain(t *testing.T) {
-	s, b := three(), heldBook(t)
-	another := pair("three", "ann", "bob", "gold", 1)
-	for _, x := range []api.Book{b, ok(t, ok(t, b, opening()...), redeem("bob", "three", 0)), at(ok(t, at(b, 77), refund("ann", "three", 0)), 0)} {
+	s, b := fixture.Three(), heldBook(t)
+	another := fixture.Pair("three", "ann", "bob", "gold", 1)
+	for _, x := range []api.Book{b, ok(t, ok(t, b, opening()...), redeem("bob", "three", 0)), fixture.At(ok(t, fixture.At(b, 77), refund("ann", "three", 0)), 0)} {
 		mustRefuse(t, x, hold("ann", s, 0), api.ErrThere)
 		mustRefuse(t, x, hold("ann", another, 0), api.ErrThere)
 		mustRefuse(t, x, hold("bob", another, 1), api.ErrThere)
 	}
 	// An arc of which there is no escrow: the others of the same swap do not stand in its way.
-	b = ok(t, market(t), hold("ann", s, 0))
+	b = ok(t, fixture.Market(), hold("ann", s, 0))
 	ok(t, b, hold("bob", another, 1))
-	ok(t, b, hold("ann", pair("thref", "ann", "bob", "gold", 1), 0))
+	ok(t, b, hold("ann", fixture.Pair("thref", "ann", "bob", "gold", 1), 0))
 }
 
 // faults of a call of Hold: what is wrong, in the order in which the chapter names it.
@@ -478,8 +347,8 @@ func (f faults) want() api.Errno {
 // book is one that a call with these faults is asked of; fillers are swaps of dee and eve.
 func (f faults) book(t *testing.T, same api.Spec, fillers []api.Spec) api.Book {
 	t.Helper()
-	list := slices.DeleteFunc(accounts(), func(account string) bool { return f.from && account == "ann" || f.to && account == "bob" })
-	b := stocked(t, list, fund("dee", "gold", 90), fund("bob", "gold", 9))
+	list := slices.DeleteFunc(fixture.Accounts(), func(account string) bool { return f.from && account == "ann" || f.to && account == "bob" })
+	b := fixture.Stocked(list, fixture.Fund("dee", "gold", 90), fixture.Fund("bob", "gold", 9))
 	if !f.from && !f.swept {
 		b = ok(t, b, give("ann", "gold", 3))
 	}
@@ -499,7 +368,7 @@ func (f faults) book(t *testing.T, same api.Spec, fillers []api.Spec) api.Book {
 
 // call is Hold of arc 0 of three, by ann, but for the faults.
 func (f faults) call() call {
-	s, who, arc := three(), "ann", 0
+	s, who, arc := fixture.Three(), "ann", 0
 	if f.funds {
 		s.Arcs[0].Amount = 4
 	}
@@ -521,10 +390,10 @@ func (f faults) call() call {
 
 // P10.2: each error by itself, and each set of them: the first one is answered.
 func TestHoldErrors(t *testing.T) {
-	same := pair("three", "dee", "eve", "gold", 1)
+	same := fixture.Pair("three", "dee", "eve", "gold", 1)
 	var fillers []api.Spec
 	for i := range 12 {
-		fillers = append(fillers, pair("filler"+string(rune('a'+i)), "dee", "eve", "gold", 1))
+		fillers = append(fillers, fixture.Pair("filler"+string(rune('a'+i)), "dee", "eve", "gold", 1))
 	}
 	seen := map[api.Errno]int{}
 	for bits := range 1 << 8 {
@@ -551,51 +420,51 @@ func TestHoldErrors(t *testing.T) {
 
 // P10.2: who is the From's Account, to the letter, and no other.
 func TestHoldWho(t *testing.T) {
-	for _, who := range []string{"", "a", "an", "anna", "Ann", "bob", "cy", "dee", "zed", of('a', 17), "ann\x00"} {
-		mustRefuse(t, market(t), hold(who, three(), 0), api.ErrArg)
+	for _, who := range []string{"", "a", "an", "anna", "Ann", "bob", "cy", "dee", "zed", fixture.Of('a', 17), "ann\x00"} {
+		mustRefuse(t, fixture.Market(), hold(who, fixture.Three(), 0), api.ErrArg)
 	}
 	for _, arc := range []int{-1, -2, 4, 5, 11, 12, 1 << 32, -1 << 32, math.MinInt, math.MaxInt} {
-		mustRefuse(t, market(t), hold("ann", three(), arc), api.ErrArg)
+		mustRefuse(t, fixture.Market(), hold("ann", fixture.Three(), arc), api.ErrArg)
 	}
 }
 
 // P10.2, R3: the escrow's spec lies in new memory, and the one that was handed in stays.
 func TestHoldNewMemory(t *testing.T) {
-	s := three()
-	was := specMemory(s)
-	b := ok(t, market(t), hold("ann", s, 0), hold("bob", s, 1))
-	if !reflect.DeepEqual(specMemory(s), was) {
+	s := fixture.Three()
+	was := fixture.SpecMemory(s)
+	b := ok(t, fixture.Market(), hold("ann", s, 0), hold("bob", s, 1))
+	if !reflect.DeepEqual(fixture.SpecMemory(s), was) {
 		t.Error("the spec that was handed in is changed")
 	}
-	first := memory(b)
+	first := fixture.Memory(b)
 	s.Parties[0].Account, s.Parties[1].Keys[0], s.Arcs[1].Amount, s.Leaders[0], s.Locks[1] = "gone", "gone", 99, 99, "gone"
 	s.Parties = append(s.Parties[:1], s.Parties[2:]...)
-	if !reflect.DeepEqual(memory(b), first) {
+	if !reflect.DeepEqual(fixture.Memory(b), first) {
 		t.Error("the escrow's spec shares a list with the one that was handed in")
 	}
 }
 
 // P10.3: each lock is opened by its key, and each escrow for itself.
 func TestUnlock(t *testing.T) {
-	s, b := three(), heldBook(t)
+	s, b := fixture.Three(), heldBook(t)
 	for _, x := range []struct {
 		place, arc int
 		key        api.Hashkey
 	}{
-		{0, 0, key(s, 0, 1, 0)}, {0, 0, key(s, 0, 1, 2, 0)}, {0, 0, key(s, 1, 1, 2)},
-		{1, 1, key(s, 0, 2, 0)}, {1, 1, key(s, 1, 2)},
-		{2, 2, key(s, 0, 0)}, {2, 2, key(s, 1, 0, 1, 2)},
+		{0, 0, fixture.Key(s, 0, 1, 0)}, {0, 0, fixture.Key(s, 0, 1, 2, 0)}, {0, 0, fixture.Key(s, 1, 1, 2)},
+		{1, 1, fixture.Key(s, 0, 2, 0)}, {1, 1, fixture.Key(s, 1, 2)},
+		{2, 2, fixture.Key(s, 0, 0)}, {2, 2, fixture.Key(s, 1, 0, 1, 2)},
 	} {
 		must(t, b, unlock("three", x.arc, x.key), api.OK, turned(b, x.place, func(e *api.Escrow) { e.Keys[x.key.Lock] = x.key }))
 	}
-	one, two := key(s, 1, 1, 2), key(s, 0, 1, 2, 0)
+	one, two := fixture.Key(s, 1, 1, 2), fixture.Key(s, 0, 1, 2, 0)
 	half := ok(t, b, unlock("three", 0, one))
 	must(t, half, unlock("three", 0, two), api.OK, turned(b, 0, func(e *api.Escrow) { e.Keys = []api.Hashkey{two, one} }))
 }
 
 // P10.3: keys that hashkey's Check refuses.
 func TestUnlockKey(t *testing.T) {
-	s, b := three(), heldBook(t)
+	s, b := fixture.Three(), heldBook(t)
 	for i, turn := range []func(k *api.Hashkey){
 		func(k *api.Hashkey) { *k = api.Hashkey{} },
 		func(k *api.Hashkey) { k.Lock = 1 },
@@ -610,12 +479,12 @@ func TestUnlockKey(t *testing.T) {
 		func(k *api.Hashkey) { k.Sigs = k.Sigs[1:] },
 		func(k *api.Hashkey) { k.Sigs = nil },
 		func(k *api.Hashkey) { slices.Reverse(k.Sigs) },
-		func(k *api.Hashkey) { k.Sigs[2] = of('s', 512) },
-		func(k *api.Hashkey) { *k = key(s, 0, 0) },
-		func(k *api.Hashkey) { *k = key(s, 0, 2, 0) },
-		func(k *api.Hashkey) { *k = key(s, 1, 1, 0, 1, 2) },
+		func(k *api.Hashkey) { k.Sigs[2] = fixture.Of('s', 512) },
+		func(k *api.Hashkey) { *k = fixture.Key(s, 0, 0) },
+		func(k *api.Hashkey) { *k = fixture.Key(s, 0, 2, 0) },
+		func(k *api.Hashkey) { *k = fixture.Key(s, 1, 1, 0, 1, 2) },
 	} {
-		k := key(s, 0, 1, 2, 0)
+		k := fixture.Key(s, 0, 1, 2, 0)
 		turn(&k)
 		if got, e := Unlock(b, "three", 0, k); e != api.ErrKey || !bank.Same(got, b) {
 			t.Errorf("change %d: %d", i, e)
@@ -625,28 +494,28 @@ func TestUnlockKey(t *testing.T) {
 
 // P10.3: at the Deadline of so many parties as the Path has a lock opens, behind it not.
 func TestUnlockTime(t *testing.T) {
-	s, b := three(), heldBook(t)
+	s, b := fixture.Three(), heldBook(t)
 	for _, x := range []struct {
 		arc, last int
 		key       api.Hashkey
 	}{
-		{2, 50, key(s, 0, 0)}, {1, 50, key(s, 1, 2)},
-		{1, 63, key(s, 0, 2, 0)}, {0, 63, key(s, 0, 1, 0)}, {0, 63, key(s, 1, 1, 2)},
-		{0, 76, key(s, 0, 1, 2, 0)}, {2, 76, key(s, 1, 0, 1, 2)},
+		{2, 50, fixture.Key(s, 0, 0)}, {1, 50, fixture.Key(s, 1, 2)},
+		{1, 63, fixture.Key(s, 0, 2, 0)}, {0, 63, fixture.Key(s, 0, 1, 0)}, {0, 63, fixture.Key(s, 1, 1, 2)},
+		{0, 76, fixture.Key(s, 0, 1, 2, 0)}, {2, 76, fixture.Key(s, 1, 0, 1, 2)},
 	} {
 		for _, time := range []int{math.MinInt, 0, 11, x.last - 1, x.last} {
-			ok(t, at(b, time), unlock("three", x.arc, x.key))
+			ok(t, fixture.At(b, time), unlock("three", x.arc, x.key))
 		}
 		for _, time := range []int{x.last + 1, x.last + 13, 1 << 40, math.MaxInt} {
-			mustRefuse(t, at(b, time), unlock("three", x.arc, x.key), api.ErrLate)
+			mustRefuse(t, fixture.At(b, time), unlock("three", x.arc, x.key), api.ErrLate)
 		}
 	}
 }
 
 // P10.3: no such escrow, whatever else is wrong.
 func TestUnlockNone(t *testing.T) {
-	k := key(three(), 0, 1, 0)
-	for _, b := range []api.Book{market(t), heldBook(t), at(heldBook(t), 1000)} {
+	k := fixture.Key(fixture.Three(), 0, 1, 0)
+	for _, b := range []api.Book{fixture.Market(), heldBook(t), fixture.At(heldBook(t), 1000)} {
 		for _, bad := range []api.Hashkey{k, {}} {
 			mustRefuse(t, b, unlock("Three", 0, bad), api.ErrNone)
 			mustRefuse(t, b, unlock("", 0, bad), api.ErrNone)
@@ -658,8 +527,8 @@ func TestUnlockNone(t *testing.T) {
 
 // P10.3: each error by itself, and each set of them: the first one is answered.
 func TestUnlockErrors(t *testing.T) {
-	s := three()
-	good, bad := key(s, 0, 1, 0), key(s, 0, 0)
+	s := fixture.Three()
+	good, bad := fixture.Key(s, 0, 1, 0), fixture.Key(s, 0, 0)
 	for bits := range 1 << 3 {
 		wrong, there, late := bits&1 > 0, bits&2 > 0, bits&4 > 0
 		b := heldBook(t)
@@ -678,12 +547,12 @@ func TestUnlockErrors(t *testing.T) {
 			k, want = bad, api.ErrKey
 		}
 		if c := unlock("three", 0, k); want != api.OK {
-			mustRefuse(t, at(b, time), c, want)
+			mustRefuse(t, fixture.At(b, time), c, want)
 		} else {
-			ok(t, at(b, time), c)
+			ok(t, fixture.At(b, time), c)
 		}
 		for _, state := range []int{api.Redeemed, api.Refunded} {
-			mustRefuse(t, at(ended(t, b, state), time), unlock("three", 0, k), api.ErrState)
+			mustRefuse(t, fixture.At(ended(t, b, state), time), unlock("three", 0, k), api.ErrState)
 		}
 	}
 }
@@ -692,7 +561,7 @@ func TestUnlockErrors(t *testing.T) {
 func ended(t *testing.T, b api.Book, state int) api.Book {
 	t.Helper()
 	if state == api.Refunded {
-		return ok(t, at(b, 77), refund("ann", "three", 0))
+		return ok(t, fixture.At(b, 77), refund("ann", "three", 0))
 	}
 	for lock, c := range opening() {
 		if e, _ := Find(b, "three", 0); len(e.Keys[lock].Path) == 0 {
@@ -704,27 +573,27 @@ func ended(t *testing.T, b api.Book, state int) api.Book {
 
 // P10.3: a lock that is open is open for all paths; the other one may be opened still.
 func TestUnlockThere(t *testing.T) {
-	s := three()
-	b := ok(t, heldBook(t), unlock("three", 0, key(s, 0, 1, 2, 0)))
+	s := fixture.Three()
+	b := ok(t, heldBook(t), unlock("three", 0, fixture.Key(s, 0, 1, 2, 0)))
 	for _, time := range []int{0, 63, 64, 76, 77, 1000} {
-		mustRefuse(t, at(b, time), unlock("three", 0, key(s, 0, 1, 2, 0)), api.ErrThere)
-		mustRefuse(t, at(b, time), unlock("three", 0, key(s, 0, 1, 0)), api.ErrThere)
+		mustRefuse(t, fixture.At(b, time), unlock("three", 0, fixture.Key(s, 0, 1, 2, 0)), api.ErrThere)
+		mustRefuse(t, fixture.At(b, time), unlock("three", 0, fixture.Key(s, 0, 1, 0)), api.ErrThere)
 	}
-	ok(t, at(b, 63), unlock("three", 0, key(s, 1, 1, 2)))
-	ok(t, at(b, 63), unlock("three", 1, key(s, 0, 2, 0)))
+	ok(t, fixture.At(b, 63), unlock("three", 0, fixture.Key(s, 1, 1, 2)))
+	ok(t, fixture.At(b, 63), unlock("three", 1, fixture.Key(s, 0, 2, 0)))
 }
 
 // R3: the key that opened a lock lies in new memory, and the one that was handed in stays.
 func TestUnlockNewMemory(t *testing.T) {
-	k := key(three(), 0, 1, 2, 0)
-	was := keyMemory(k)
+	k := fixture.Key(fixture.Three(), 0, 1, 2, 0)
+	was := fixture.KeyMemory(k)
 	b := ok(t, heldBook(t), unlock("three", 0, k))
-	if !reflect.DeepEqual(keyMemory(k), was) {
+	if !reflect.DeepEqual(fixture.KeyMemory(k), was) {
 		t.Error("the key that was handed in is changed")
 	}
-	first := memory(b)
+	first := fixture.Memory(b)
 	k.Path[1], k.Sigs[2] = 99, "gone"
-	if !reflect.DeepEqual(memory(b), first) {
+	if !reflect.DeepEqual(fixture.Memory(b), first) {
 		t.Error("the escrow's key shares a list with the one that was handed in")
 	}
 }
@@ -732,18 +601,18 @@ func TestUnlockNewMemory(t *testing.T) {
 // P10.4: the amount goes to the To's account, whoever asks, and whenever.
 func TestRedeem(t *testing.T) {
 	b := ok(t, heldBook(t), opening()...)
-	for _, who := range []string{"ann", "bob", "cy", "dee", "zed", "", of('n', 40)} {
+	for _, who := range []string{"ann", "bob", "cy", "dee", "zed", "", fixture.Of('n', 40)} {
 		for _, time := range []int{math.MinInt, 0, 50, 76, 77, 1 << 40, math.MaxInt} {
-			late := at(b, time)
+			late := fixture.At(b, time)
 			want := has(turned(late, 0, into(api.Redeemed)),
-				fund("ann", "gold", 7), fund("bob", "gold", 3), fund("bob", "salt", 15), fund("cy", "gold", 1), fund("dee", "gold", 90), fund("eve", "salt", 4))
+				fixture.Fund("ann", "gold", 7), fixture.Fund("bob", "gold", 3), fixture.Fund("bob", "salt", 15), fixture.Fund("cy", "gold", 1), fixture.Fund("dee", "gold", 90), fixture.Fund("eve", "salt", 4))
 			must(t, late, redeem(who, "three", 0), api.OK, want)
 		}
 	}
 	// bob has gold already: it is that Fund that grows.
 	b = ok(t, b, give("bob", "gold", 4), give("bob", "zinc", 1))
 	must(t, b, redeem("ann", "three", 0), api.OK, has(turned(b, 0, into(api.Redeemed)),
-		fund("ann", "gold", 7), fund("bob", "gold", 7), fund("bob", "salt", 15), fund("bob", "zinc", 1), fund("cy", "gold", 1), fund("dee", "gold", 90), fund("eve", "salt", 4)))
+		fixture.Fund("ann", "gold", 7), fixture.Fund("bob", "gold", 7), fixture.Fund("bob", "salt", 15), fixture.Fund("bob", "zinc", 1), fixture.Fund("cy", "gold", 1), fixture.Fund("dee", "gold", 90), fixture.Fund("eve", "salt", 4)))
 }
 
 // P10.4: in whichever place among the Funds it comes to stand.
@@ -752,17 +621,17 @@ func TestRedeemPlaces(t *testing.T) {
 		to, asset string
 		want      []api.Fund
 	}{
-		{"aaa", "gold", []api.Fund{fund("aaa", "gold", 2), fund("ann", "gold", 1), fund("ann", "salt", 1), fund("mid", "gold", 1), fund("mid", "salt", 1)}},
-		{"mid", "gold", []api.Fund{fund("ann", "gold", 1), fund("ann", "salt", 1), fund("mid", "gold", 3), fund("mid", "salt", 1)}},
-		{"mid", "salt", []api.Fund{fund("ann", "gold", 1), fund("ann", "salt", 1), fund("mid", "gold", 1), fund("mid", "salt", 3)}},
-		{"mid", "zinc", []api.Fund{fund("ann", "gold", 1), fund("ann", "salt", 1), fund("mid", "gold", 1), fund("mid", "salt", 1), fund("mid", "zinc", 2)}},
-		{"mid", "iron", []api.Fund{fund("ann", "gold", 1), fund("ann", "salt", 1), fund("mid", "gold", 1), fund("mid", "iron", 2), fund("mid", "salt", 1)}},
-		{"\xff", "gold", []api.Fund{fund("ann", "gold", 1), fund("ann", "salt", 1), fund("mid", "gold", 1), fund("mid", "salt", 1), fund("\xff", "gold", 2)}},
+		{"aaa", "gold", []api.Fund{fixture.Fund("aaa", "gold", 2), fixture.Fund("ann", "gold", 1), fixture.Fund("ann", "salt", 1), fixture.Fund("mid", "gold", 1), fixture.Fund("mid", "salt", 1)}},
+		{"mid", "gold", []api.Fund{fixture.Fund("ann", "gold", 1), fixture.Fund("ann", "salt", 1), fixture.Fund("mid", "gold", 3), fixture.Fund("mid", "salt", 1)}},
+		{"mid", "salt", []api.Fund{fixture.Fund("ann", "gold", 1), fixture.Fund("ann", "salt", 1), fixture.Fund("mid", "gold", 1), fixture.Fund("mid", "salt", 3)}},
+		{"mid", "zinc", []api.Fund{fixture.Fund("ann", "gold", 1), fixture.Fund("ann", "salt", 1), fixture.Fund("mid", "gold", 1), fixture.Fund("mid", "salt", 1), fixture.Fund("mid", "zinc", 2)}},
+		{"mid", "iron", []api.Fund{fixture.Fund("ann", "gold", 1), fixture.Fund("ann", "salt", 1), fixture.Fund("mid", "gold", 1), fixture.Fund("mid", "iron", 2), fixture.Fund("mid", "salt", 1)}},
+		{"\xff", "gold", []api.Fund{fixture.Fund("ann", "gold", 1), fixture.Fund("ann", "salt", 1), fixture.Fund("mid", "gold", 1), fixture.Fund("mid", "salt", 1), fixture.Fund("\xff", "gold", 2)}},
 	} {
-		b := stocked(t, []string{"ann", "mid", "aaa", "\xff"}, fund("ann", "gold", 1), fund("ann", "salt", 1), fund("mid", "gold", 1), fund("mid", "salt", 1))
+		b := fixture.Stocked([]string{"ann", "mid", "aaa", "\xff"}, fixture.Fund("ann", "gold", 1), fixture.Fund("ann", "salt", 1), fixture.Fund("mid", "gold", 1), fixture.Fund("mid", "salt", 1))
 		b = ok(t, b, give("ann", x.asset, 2))
-		s := pair("pair", "ann", x.to, x.asset, 2)
-		b = ok(t, b, hold("ann", s, 0), unlock("pair", 0, key(s, 0, 1)))
+		s := fixture.Pair("pair", "ann", x.to, x.asset, 2)
+		b = ok(t, b, hold("ann", s, 0), unlock("pair", 0, fixture.Key(s, 0, 1)))
 		must(t, b, redeem("", "pair", 0), api.OK, has(turned(b, 0, into(api.Redeemed)), x.want...))
 	}
 }
@@ -773,19 +642,19 @@ func TestRedeemErrors(t *testing.T) {
 	for _, time := range []int{0, 63, 76, 77} {
 		for _, shut := range []api.Book{b, ok(t, b, calls[0]), ok(t, b, calls[1])} {
 			for _, who := range []string{"ann", "bob", "zed", ""} {
-				mustRefuse(t, at(shut, time), redeem(who, "three", 0), api.ErrEarly)
-				mustRefuse(t, at(shut, time), redeem(who, "three", 3), api.ErrNone)
-				mustRefuse(t, at(shut, time), redeem(who, "three", -1), api.ErrNone)
-				mustRefuse(t, at(shut, time), redeem(who, "there", 0), api.ErrNone)
+				mustRefuse(t, fixture.At(shut, time), redeem(who, "three", 0), api.ErrEarly)
+				mustRefuse(t, fixture.At(shut, time), redeem(who, "three", 3), api.ErrNone)
+				mustRefuse(t, fixture.At(shut, time), redeem(who, "three", -1), api.ErrNone)
+				mustRefuse(t, fixture.At(shut, time), redeem(who, "there", 0), api.ErrNone)
 				mustRefuse(t, ended(t, shut, api.Refunded), redeem(who, "three", 0), api.ErrState)
 				mustRefuse(t, ended(t, shut, api.Redeemed), redeem(who, "three", 0), api.ErrState)
 			}
 		}
 	}
 	// The locks of another arc play no part.
-	s := three()
+	s := fixture.Three()
 	mustRefuse(t, ok(t, b, calls...), redeem("bob", "three", 1), api.ErrEarly)
-	ok(t, b, unlock("three", 1, key(s, 1, 2)), unlock("three", 1, key(s, 0, 2, 0)), redeem("bob", "three", 1))
+	ok(t, b, unlock("three", 1, fixture.Key(s, 1, 2)), unlock("three", 1, fixture.Key(s, 0, 2, 0)), redeem("bob", "three", 1))
 }
 
 // P10.4: the amount goes back to the From's account, behind Last, while a lock is not open.
@@ -793,22 +662,22 @@ func TestRefund(t *testing.T) {
 	b, calls := heldBook(t), opening()
 	for _, shut := range []api.Book{b, ok(t, b, calls[0]), ok(t, b, calls[1])} {
 		for _, time := range []int{math.MinInt, 0, 50, 63, 75, 76} {
-			mustRefuse(t, at(shut, time), refund("ann", "three", 0), api.ErrEarly)
+			mustRefuse(t, fixture.At(shut, time), refund("ann", "three", 0), api.ErrEarly)
 		}
 		for _, time := range []int{77, 78, 1 << 40, math.MaxInt} {
-			late := at(shut, time)
+			late := fixture.At(shut, time)
 			must(t, late, refund("ann", "three", 0), api.OK, has(turned(late, 0, into(api.Refunded)),
-				fund("ann", "gold", 10), fund("bob", "salt", 15), fund("cy", "gold", 1), fund("dee", "gold", 90), fund("eve", "salt", 4)))
+				fixture.Fund("ann", "gold", 10), fixture.Fund("bob", "salt", 15), fixture.Fund("cy", "gold", 1), fixture.Fund("dee", "gold", 90), fixture.Fund("eve", "salt", 4)))
 		}
 	}
 	// cy held all its wool: the Fund is there again.
-	late := at(b, 77)
+	late := fixture.At(b, 77)
 	must(t, late, refund("cy", "three", 2), api.OK, has(turned(late, 2, into(api.Refunded)),
-		fund("ann", "gold", 7), fund("bob", "salt", 15), fund("cy", "gold", 1), fund("cy", "wool", 7), fund("dee", "gold", 90), fund("eve", "salt", 4)))
-	s := pair("pair", "dee", "eve", "gold", 90)
-	b = ok(t, market(t), hold("dee", s, 0))
-	mustRefuse(t, at(b, 50), refund("dee", "pair", 0), api.ErrEarly)
-	ok(t, at(b, 51), refund("dee", "pair", 0))
+		fixture.Fund("ann", "gold", 7), fixture.Fund("bob", "salt", 15), fixture.Fund("cy", "gold", 1), fixture.Fund("cy", "wool", 7), fixture.Fund("dee", "gold", 90), fixture.Fund("eve", "salt", 4)))
+	s := fixture.Pair("pair", "dee", "eve", "gold", 90)
+	b = ok(t, fixture.Market(), hold("dee", s, 0))
+	mustRefuse(t, fixture.At(b, 50), refund("dee", "pair", 0), api.ErrEarly)
+	ok(t, fixture.At(b, 51), refund("dee", "pair", 0))
 }
 
 // P10.4: each error of Refund by itself, and each set of them: the first one is answered.
@@ -851,8 +720,8 @@ func TestRefundErrors(t *testing.T) {
 			}
 		}
 	}
-	b := at(heldBook(t), 77)
-	for _, who := range []string{"", "bob", "cy", "dee", "an", "anna", "Ann", "zed", of('a', 17)} {
+	b := fixture.At(heldBook(t), 77)
+	for _, who := range []string{"", "bob", "cy", "dee", "an", "anna", "Ann", "zed", fixture.Of('a', 17)} {
 		mustRefuse(t, b, refund(who, "three", 0), api.ErrArg)
 	}
 	for _, arc := range []int{-1, 3, 4, math.MinInt, math.MaxInt} {
@@ -876,10 +745,10 @@ func crowded(t *testing.T) api.Book {
 // P10.4: neither Redeem nor Refund fails for want of room.
 func TestEndsWithoutRoom(t *testing.T) {
 	for _, amount := range []int{1, 1 << 49, 1<<50 - 1, 1 << 50} {
-		s := pair("pair", "a", "l", "gold", amount)
+		s := fixture.Pair("pair", "a", "l", "gold", amount)
 		b := ok(t, crowded(t), hold("a", s, 0))
 		for i := range 11 {
-			b = ok(t, b, hold("b", pair("filler"+string(rune('a'+i)), "b", "c", "iron", 1), 0))
+			b = ok(t, b, hold("b", fixture.Pair("filler"+string(rune('a'+i)), "b", "c", "iron", 1), 0))
 		}
 		for _, asset := range []string{"gold", "iron", "salt", "wool"} {
 			if _, e := bank.Give(b, "l", asset, 1); e != api.ErrBig {
@@ -887,12 +756,12 @@ func TestEndsWithoutRoom(t *testing.T) {
 			}
 		}
 		totals := map[string]int{"gold": 1 << 50, "iron": 1 << 50, "salt": 1 << 50, "wool": 1 << 50}
-		redeemed := ok(t, b, unlock("pair", 0, key(s, 0, 1)), redeem("zed", "pair", 0))
+		redeemed := ok(t, b, unlock("pair", 0, fixture.Key(s, 0, 1)), redeem("zed", "pair", 0))
 		if n, e := bank.Balance(redeemed, "l", "gold"); n != amount || e != api.OK {
 			t.Errorf("l has %d, %d, want %d", n, e, amount)
 		}
 		mustTotals(t, "redeemed", redeemed, totals)
-		refunded := ok(t, at(b, 51), refund("a", "pair", 0))
+		refunded := ok(t, fixture.At(b, 51), refund("a", "pair", 0))
 		if n, e := bank.Balance(refunded, "a", "gold"); n != 1<<50 || e != api.OK {
 			t.Errorf("a has %d, %d", n, e)
 		}
@@ -902,22 +771,22 @@ func TestEndsWithoutRoom(t *testing.T) {
 
 // P10.4: nor do they in a book that was read from bytes, which may tell of more than there may be.
 func TestEndsInBooksOfMore(t *testing.T) {
-	s := pair("pair", "ann", "bob", "gold", 5)
-	b := ok(t, market(t), hold("ann", s, 0))
-	b.Funds = slices.Concat([]api.Fund{fund("aaa", "iron", 1<<50), fund("aaa", "lead", 1<<51), fund("aaa", "tin", 3), fund("aaa", "zinc", 3)}, b.Funds,
-		[]api.Fund{fund("fay", "gold", 1<<50)})
-	if n, e := bank.Balance(ok(t, b, unlock("pair", 0, key(s, 0, 1)), redeem("", "pair", 0)), "bob", "gold"); n != 5 || e != api.OK {
+	s := fixture.Pair("pair", "ann", "bob", "gold", 5)
+	b := ok(t, fixture.Market(), hold("ann", s, 0))
+	b.Funds = slices.Concat([]api.Fund{fixture.Fund("aaa", "iron", 1<<50), fixture.Fund("aaa", "lead", 1<<51), fixture.Fund("aaa", "tin", 3), fixture.Fund("aaa", "zinc", 3)}, b.Funds,
+		[]api.Fund{fixture.Fund("fay", "gold", 1<<50)})
+	if n, e := bank.Balance(ok(t, b, unlock("pair", 0, fixture.Key(s, 0, 1)), redeem("", "pair", 0)), "bob", "gold"); n != 5 || e != api.OK {
 		t.Errorf("redeemed: %d, %d", n, e)
 	}
-	if n, e := bank.Balance(ok(t, at(b, 51), refund("ann", "pair", 0)), "ann", "gold"); n != 10 || e != api.OK {
+	if n, e := bank.Balance(ok(t, fixture.At(b, 51), refund("ann", "pair", 0)), "ann", "gold"); n != 10 || e != api.OK {
 		t.Errorf("refunded: %d, %d", n, e)
 	}
 }
 
 // R1: nothing panics, whatever an escrow tells that was read from bytes.
 func TestOddEscrows(t *testing.T) {
-	s := three()
-	k := key(s, 0, 1, 0)
+	s := fixture.Three()
+	k := fixture.Key(s, 0, 1, 0)
 	b := heldBook(t)
 	odd := []func(e *api.Escrow){
 		func(e *api.Escrow) { e.Arc = -1 },
@@ -941,7 +810,7 @@ func TestOddEscrows(t *testing.T) {
 			for _, arc := range []int{-1, 0, 4, math.MaxInt} {
 				for _, id := range []string{"three", ""} {
 					for _, c := range []call{unlock(id, arc, k), unlock(id, arc, api.Hashkey{}), redeem("bob", id, arc), refund("ann", id, arc), hold("ann", s, arc)} {
-						c.do(at(x, time))
+						c.do(fixture.At(x, time))
 					}
 					e, _ := Find(x, id, arc)
 					Opened(e)
@@ -960,11 +829,11 @@ func TestOddEscrows(t *testing.T) {
 	mustRefuse(t, none, refund("ann", "three", 4), api.ErrArg)
 	// Of a state that there is not there is no step.
 	for _, state := range []int{math.MinInt, -1, 0, 4, 1 << 32, 1<<32 + 1, math.MaxInt} {
-		x := at(turned(b, 0, into(state)), 77)
+		x := fixture.At(turned(b, 0, into(state)), 77)
 		mustRefuse(t, x, unlock("three", 0, k), api.ErrState)
 		mustRefuse(t, x, redeem("bob", "three", 0), api.ErrState)
 		mustRefuse(t, x, refund("ann", "three", 0), api.ErrState)
-		mustRefuse(t, at(x, 0), hold("ann", s, 0), api.ErrThere)
+		mustRefuse(t, fixture.At(x, 0), hold("ann", s, 0), api.ErrThere)
 	}
 }
 
@@ -987,27 +856,27 @@ func TestStates(t *testing.T) {
 
 // P10.5, R3: books that are made of one book in turn do not write into one another.
 func TestBooksOfOneBook(t *testing.T) {
-	s := three()
-	other := pair("pair", "dee", "eve", "gold", 1)
+	s := fixture.Three()
+	other := fixture.Pair("pair", "dee", "eve", "gold", 1)
 	calls := slices.Concat(opening(), []call{
-		hold("ann", s, 0), hold("bob", s, 1), hold("dee", other, 0), hold("dee", pair("more", "dee", "ann", "gold", 2), 0),
-		unlock("three", 1, key(s, 1, 2)), unlock("three", 1, key(s, 0, 2, 0)), unlock("pair", 0, key(other, 0, 1)),
+		hold("ann", s, 0), hold("bob", s, 1), hold("dee", other, 0), hold("dee", fixture.Pair("more", "dee", "ann", "gold", 2), 0),
+		unlock("three", 1, fixture.Key(s, 1, 2)), unlock("three", 1, fixture.Key(s, 0, 2, 0)), unlock("pair", 0, fixture.Key(other, 0, 1)),
 		redeem("bob", "three", 0), redeem("bob", "three", 1), redeem("eve", "pair", 0), refund("dee", "pair", 0), refund("ann", "three", 0), refund("bob", "three", 1),
 	})
-	books := []api.Book{market(t), roomy(market(t)), heldBook(t), roomy(heldBook(t)), at(roomy(heldBook(t)), 77)}
+	books := []api.Book{fixture.Market(), fixture.Roomy(fixture.Market()), heldBook(t), fixture.Roomy(heldBook(t)), fixture.At(fixture.Roomy(heldBook(t)), 77)}
 	var were []api.Book
 	for _, b := range books {
-		were = append(were, memory(b))
+		were = append(were, fixture.Memory(b))
 	}
 	for i := 0; i < len(books) && len(books) < 400; i++ {
 		for _, c := range calls {
 			if next, e := c.do(books[i]); e == api.OK {
-				books, were = append(books, next), append(were, memory(next))
+				books, were = append(books, next), append(were, fixture.Memory(next))
 			}
 		}
 	}
 	for i := range books {
-		if !reflect.DeepEqual(memory(books[i]), were[i]) {
+		if !reflect.DeepEqual(fixture.Memory(books[i]), were[i]) {
 			t.Fatalf("book %d of %d is changed", i, len(books))
 		}
 	}
@@ -1114,7 +983,7 @@ func (s *shadow) funds() []api.Fund {
 	var list []api.Fund
 	for at, amount := range s.has {
 		if amount != 0 {
-			list = append(list, fund(at[0], at[1], amount))
+			list = append(list, fixture.Fund(at[0], at[1], amount))
 		}
 	}
 	slices.SortFunc(list, func(a, b api.Fund) int {
@@ -1140,12 +1009,12 @@ func (s *shadow) mustBe(t *testing.T, why string, b api.Book) {
 
 // rivals are swaps that ask for the same amounts, and keys of theirs by locks and parties: some lead to no arc.
 func rivals() ([]api.Spec, [][]api.Hashkey) {
-	late := pair("late", "eve", "dee", "salt", 2)
+	late := fixture.Pair("late", "eve", "dee", "salt", 2)
 	late.Start = 60
-	specs := []api.Spec{three(), pair("pair", "dee", "eve", "gold", 60), pair("again", "dee", "ann", "gold", 60), late}
-	keys := [][]api.Hashkey{{key(specs[0], 0, 0), key(specs[0], 0, 2, 0), key(specs[0], 0, 1, 0), key(specs[0], 0, 1, 2, 0), key(specs[0], 1, 2), key(specs[0], 1, 1, 2), key(specs[0], 1, 0, 1, 2), {}}}
+	specs := []api.Spec{fixture.Three(), fixture.Pair("pair", "dee", "eve", "gold", 60), fixture.Pair("again", "dee", "ann", "gold", 60), late}
+	keys := [][]api.Hashkey{{fixture.Key(specs[0], 0, 0), fixture.Key(specs[0], 0, 2, 0), fixture.Key(specs[0], 0, 1, 0), fixture.Key(specs[0], 0, 1, 2, 0), fixture.Key(specs[0], 1, 2), fixture.Key(specs[0], 1, 1, 2), fixture.Key(specs[0], 1, 0, 1, 2), {}}}
 	for _, s := range specs[1:] {
-		keys = append(keys, []api.Hashkey{key(s, 0, 1), key(s, 0, 0, 1), {Lock: 9}})
+		keys = append(keys, []api.Hashkey{fixture.Key(s, 0, 1), fixture.Key(s, 0, 0, 1), {Lock: 9}})
 	}
 	return specs, keys
 }
@@ -1156,7 +1025,7 @@ func TestLongRuns(t *testing.T) {
 	specs, keys := rivals()
 	seen := map[string]int{}
 	for range 40 {
-		b := market(t)
+		b := fixture.Market()
 		s := &shadow{has: map[[2]string]int{}, escrows: map[where]*hidden{}}
 		for _, f := range b.Funds {
 			s.has[[2]string{f.Account, f.Asset}] = f.Amount
@@ -1166,7 +1035,7 @@ func TestLongRuns(t *testing.T) {
 			b.Time = s.time
 			i := random.Intn(len(specs))
 			id, arc := specs[i].ID, random.Intn(len(specs[i].Arcs))
-			who := accounts()[random.Intn(5)]
+			who := fixture.Accounts()[random.Intn(5)]
 			if random.Intn(2) == 0 {
 				who = specs[i].Parties[specs[i].Arcs[arc].From].Account
 			}
@@ -1215,12 +1084,12 @@ func TestEndsOnce(t *testing.T) {
 	for _, state := range []int{api.Redeemed, api.Refunded} {
 		b := ended(t, heldBook(t), state)
 		for _, time := range []int{math.MinInt, 0, 76, 77, math.MaxInt} {
-			for _, who := range accounts() {
-				mustRefuse(t, at(b, time), redeem(who, "three", 0), api.ErrState)
+			for _, who := range fixture.Accounts() {
+				mustRefuse(t, fixture.At(b, time), redeem(who, "three", 0), api.ErrState)
 			}
-			mustRefuse(t, at(b, time), refund("ann", "three", 0), api.ErrState)
+			mustRefuse(t, fixture.At(b, time), refund("ann", "three", 0), api.ErrState)
 			for _, c := range opening() {
-				mustRefuse(t, at(b, time), c, api.ErrState)
+				mustRefuse(t, fixture.At(b, time), c, api.ErrState)
 			}
 		}
 	}
